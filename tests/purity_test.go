@@ -1,0 +1,174 @@
+package tests
+
+import (
+	"math"
+	"reflect"
+	"slices"
+	"testing"
+
+	"loop.example/g01012/impl"
+)
+
+// A trial is a call of a function with some arguments.
+type trial struct {
+	name      string
+	function  any
+	arguments []any
+}
+
+// edges are the numbers with which the functions are called.
+func edges() []int64 {
+	return []int64{math.MinInt64, math.MinInt64 + 1, -1 << 32, -21, -1, 0, 1, 2, 3, 9, 10, 11, 12, 13, 19, 20, 21, 1 << 32, math.MaxInt64 - 1, math.MaxInt64}
+}
+
+// trialsOfBasics are calls of all functions of chapter 1.
+func trialsOfBasics() []trial {
+	var list []trial
+	for _, n := range edges() {
+		list = append(list, trial{"CodeName", impl.CodeName, []any{n}}, trial{"Decimal", impl.Decimal, []any{n}})
+	}
+	for _, s := range []string{"", " ", "a", "tray-3", " a  b ", "-", "-0", "12", "-12", "999999999999999999", "\xff\x00 \xe2"} {
+		list = append(list, trial{"IsName", impl.IsName, []any{s}}, trial{"ReadDecimal", impl.ReadDecimal, []any{s}}, trial{"SplitWords", impl.SplitWords, []any{s}})
+	}
+	return list
+}
+
+// trialsOfCards are calls of all functions of chapter 2; each card and each deck has unused capacity.
+func trialsOfCards() []trial {
+	var list []trial
+	for _, n := range edges() {
+		list = append(list, trial{"BlankCard", impl.BlankCard, []any{n}}, trial{"BitOf", impl.BitOf, []any{n}})
+	}
+	cards := append(someCards(), wrongCards()...)
+	for _, c := range cards {
+		list = append(list, trial{"ValidCard", impl.ValidCard, []any{c}}, trial{"CountHoles", impl.CountHoles, []any{c}}, trial{"CardPicture", impl.CardPicture, []any{c}})
+		for _, n := range edges() {
+			for _, m := range edges() {
+				list = append(list, trial{"PunchHole", impl.PunchHole, []any{c, n, m}}, trial{"HasHole", impl.HasHole, []any{c, n, m}}, trial{"PartOf", impl.PartOf, []any{c, impl.Field{From: n, To: m}}})
+			}
+		}
+		for _, d := range cards {
+			list = append(list, trial{"SameCard", impl.SameCard, []any{c, d}}, trial{"Overlay", impl.Overlay, []any{c, d}})
+		}
+	}
+	decks := [][]impl.Card{nil, {}, {{}}, {card(9)}, {card(9), card(4)}, {card(9), card(4, 0)}, {card(9), {}}, cards, copies(impl.MaxDeck, card(1, 2)), copies(impl.MaxDeck+1, card(1))}
+	for _, a := range decks {
+		list = append(list, trial{"ValidDeck", impl.ValidDeck, []any{a}})
+		for _, b := range decks {
+			list = append(list, trial{"SameDeck", impl.SameDeck, []any{a, b}})
+		}
+	}
+	return list
+}
+
+// guard is the memory of an argument, and what it was before a call.
+type guard struct {
+	now, before []int64
+	cards       []impl.Card
+	lists       [][]int64
+}
+
+// changed reports whether the memory is not as it was.
+func (g guard) changed() bool {
+	for k, c := range g.cards {
+		if !slices.Equal(c.Holes, g.lists[k]) || (c.Holes == nil) != (g.lists[k] == nil) {
+			return true
+		}
+	}
+	return !slices.Equal(g.now, g.before)
+}
+
+// guardCard returns the card with unused capacity behind its columns, and its guard. A card without a list stays one.
+func guardCard(c impl.Card) (impl.Card, guard) {
+	if c.Holes == nil {
+		return c, guard{}
+	}
+	holes, all := guarded(c.Holes)
+	return impl.Card{Holes: holes}, guard{now: all, before: slices.Clone(all)}
+}
+
+// guardArgument returns an argument with unused capacity behind each of its slices, and the guards of its memory.
+func guardArgument(x any) (any, []guard) {
+	switch v := x.(type) {
+	case impl.Card:
+		c, g := guardCard(v)
+		return c, []guard{g}
+	case []impl.Card:
+		if v == nil {
+			return v, nil
+		}
+		var deck []impl.Card
+		var guards []guard
+		for _, c := range append(slices.Clone(v), card(spare), card(spare, spare)) {
+			d, g := guardCard(c)
+			deck, guards = append(deck, d), append(guards, g)
+		}
+		whole := guard{cards: deck}
+		for _, c := range deck {
+			whole.lists = append(whole.lists, slices.Clone(c.Holes))
+		}
+		return deck[:len(v)], append(guards, whole)
+	}
+	return x, nil
+}
+
+// TestPurityAndTotality checks P1 for all trials: each call returns, returns the same again, changes no argument, and returns memory of its own.
+func TestPurityAndTotality(t *testing.T) {
+	for _, x := range append(trialsOfBasics(), trialsOfCards()...) {
+		checkTrial(t, x)
+	}
+}
+
+func checkTrial(t *testing.T, x trial) {
+	t.Helper()
+	var arguments []any
+	var guards []guard
+	for _, a := range x.arguments {
+		b, g := guardArgument(a)
+		arguments, guards = append(arguments, b), append(guards, g...)
+	}
+	var plain, one, two []any
+	broken := panics(func() {
+		plain, one, two = call(x.function, x.arguments...), call(x.function, arguments...), call(x.function, arguments...)
+	})
+	if broken != nil {
+		t.Fatalf("%s(%v): panic: %v", x.name, x.arguments, broken)
+	}
+	if !reflect.DeepEqual(plain, one) || !reflect.DeepEqual(one, two) {
+		t.Errorf("%s(%v): got %v, %v and %v", x.name, x.arguments, plain, one, two)
+	}
+	spoil(one)
+	if !reflect.DeepEqual(plain, two) {
+		t.Errorf("%s(%v): two results share memory", x.name, x.arguments)
+	}
+	spoil(two)
+	for _, g := range guards {
+		if g.changed() {
+			t.Errorf("%s(%v): an argument is changed, or a result shares its memory", x.name, x.arguments)
+		}
+	}
+	if code, ok := plain[len(plain)-1].(int64); ok && len(plain) > 1 && code != impl.OK && !zeroButCode(plain) {
+		t.Errorf("%s(%v): got %v, with values beside an error", x.name, x.arguments, plain)
+	}
+}
+
+// TestEmptyAndNilSlices checks P1: no slice and an empty one are equal arguments.
+func TestEmptyAndNilSlices(t *testing.T) {
+	none, empty := impl.Card{}, impl.Card{Holes: []int64{}}
+	for _, x := range []trial{
+		{"ValidCard", impl.ValidCard, nil},
+		{"CountHoles", impl.CountHoles, nil},
+		{"CardPicture", impl.CardPicture, nil},
+		{"PunchHole", impl.PunchHole, []any{int64(0), int64(0)}},
+		{"HasHole", impl.HasHole, []any{int64(0), int64(0)}},
+		{"PartOf", impl.PartOf, []any{impl.Field{From: 0, To: 1}}},
+		{"Overlay", impl.Overlay, []any{card(9)}},
+		{"SameCard", impl.SameCard, []any{impl.Card{}}},
+	} {
+		one, two := call(x.function, append([]any{none}, x.arguments...)...), call(x.function, append([]any{empty}, x.arguments...)...)
+		if !reflect.DeepEqual(one, two) {
+			t.Errorf("%s: got %v and %v", x.name, one, two)
+		}
+	}
+	same(t, "decks", "true true", impl.ValidDeck(nil), impl.ValidDeck([]impl.Card{}))
+}
