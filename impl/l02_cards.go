@@ -42,7 +42,7 @@ func (h columns) shape() shape {
 // legal reports whether all columns have holes in the twelve rows only.
 func (h columns) legal() bool {
 	for _, mask := range h {
-		if mask < 0 || mask > AllRows {
+		if !isMask(mask) {
 			return false
 		}
 	}
@@ -68,6 +68,9 @@ func (h columns) line(bit int) string {
 	}
 	return b.String()
 }
+
+// isMask reports whether a column may have the holes of mask.
+func isMask(mask int64) bool { return 0 <= mask && mask <= AllRows }
 
 // isWidth reports whether a card may have so many columns.
 func isWidth(width int64) bool { return 1 <= width && width <= MaxColumns }
@@ -167,15 +170,24 @@ func CountHoles(c Card) (int64, int64) {
 	return int64(count), OK
 }
 
-// PartOf returns the card that has the columns of a field.
-func PartOf(c Card, f Field) (Card, int64) {
+// columnsIn returns the columns of a field of a card, in the memory of the card.
+func columnsIn(c Card, f Field) (columns, int64) {
 	if !ValidCard(c) {
-		return Card{}, ErrInvalid
+		return nil, ErrInvalid
 	}
 	if !isFieldOf(f, int64(len(c.Holes))) {
-		return Card{}, ErrRange
+		return nil, ErrRange
 	}
-	return Card{Holes: slices.Clone(c.Holes[f.From:f.To])}, OK
+	return c.Holes[f.From:f.To], OK
+}
+
+// PartOf returns the card that has the columns of a field.
+func PartOf(c Card, f Field) (Card, int64) {
+	part, code := columnsIn(c, f)
+	if code != OK {
+		return Card{}, code
+	}
+	return Card{Holes: slices.Clone(part)}, OK
 }
 
 // Overlay returns the card with the holes of two cards.

@@ -63,12 +63,26 @@ func call(f any, arguments ...any) []any {
 	return out
 }
 
+// fails fails the test unless a function returns this code, which is an error, and zero values beside it.
+func fails(t *testing.T, code int64, f any, arguments ...any) {
+	t.Helper()
+	got := call(f, arguments...)
+	if got[len(got)-1] != code || !zeroButCode(got) {
+		t.Errorf("%v: got %v, want the code %d", arguments, got, code)
+	}
+}
+
 // spoil overwrites all memory that results of a call have, unused capacity included.
 func spoil(results []any) {
 	for _, x := range results {
 		switch v := x.(type) {
 		case impl.Card:
 			numbers := v.Holes[:cap(v.Holes)]
+			for k := range numbers {
+				numbers[k] = spare
+			}
+		case []int64:
+			numbers := v[:cap(v)]
 			for k := range numbers {
 				numbers[k] = spare
 			}

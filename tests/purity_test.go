@@ -61,6 +61,40 @@ func trialsOfCards() []trial {
 	return list
 }
 
+// trialsOfCodes are calls of all functions of chapter 3; each card has unused capacity.
+func trialsOfCodes() []trial {
+	var list []trial
+	for b := range 256 {
+		list = append(list, trial{"CodeOf", impl.CodeOf, []any{byte(b)}}, trial{"RankOf", impl.RankOf, []any{byte(b)}})
+	}
+	for _, n := range append(edges(), 6, 130, impl.AllRows, impl.AllRows+1, math.MinInt64+9) {
+		list = append(list, trial{"CharOf", impl.CharOf, []any{n}})
+		for _, s := range []string{"", " ", "A-1", "a", "\u0141", "\xff\x00", allChars()[:20], allChars()[19:], allChars()} {
+			list = append(list, trial{"PunchText", impl.PunchText, []any{s, n}})
+		}
+	}
+	cards := append(someCards(), wrongCards()...)
+	cards = append(cards, cardOf("AB-12"), cardOf(" 0 1"), card(4, 8, 18), card(6), card(9, 3), wide(13, 16), wide(impl.MaxColumns, 16))
+	for _, c := range cards {
+		list = append(list, trial{"ReadText", impl.ReadText, []any{c}}, trial{"IllegalColumns", impl.IllegalColumns, []any{c}})
+		for _, from := range edges() {
+			for _, to := range edges() {
+				f := impl.Field{From: from, To: to}
+				list = append(list, trial{"NumberIn", impl.NumberIn, []any{c, f}}, trial{"IsBlankField", impl.IsBlankField, []any{c, f}})
+				for _, n := range []int64{math.MinInt64, -impl.MaxCardNumber - 1, -impl.MaxCardNumber, -10, -1, 0, 1, 123, impl.MaxCardNumber, impl.MaxCardNumber + 1, math.MaxInt64} {
+					list = append(list, trial{"PunchNumber", impl.PunchNumber, []any{c, f, n}})
+				}
+			}
+		}
+		for _, d := range cards {
+			for _, f := range []impl.Field{{}, {From: 0, To: 1}, {From: 0, To: 3}, {From: 1, To: 4}, {From: 0, To: impl.MaxColumns}, {From: -1, To: 1}, {From: math.MinInt64, To: math.MaxInt64}, {From: math.MaxInt64, To: math.MinInt64}} {
+				list = append(list, trial{"CompareFields", impl.CompareFields, []any{c, d, f}})
+			}
+		}
+	}
+	return list
+}
+
 // guard is the memory of an argument, and what it was before a call.
 type guard struct {
 	now, before []int64
@@ -114,7 +148,7 @@ func guardArgument(x any) (any, []guard) {
 
 // TestPurityAndTotality checks P1 for all trials: each call returns, returns the same again, changes no argument, and returns memory of its own.
 func TestPurityAndTotality(t *testing.T) {
-	for _, x := range append(trialsOfBasics(), trialsOfCards()...) {
+	for _, x := range slices.Concat(trialsOfBasics(), trialsOfCards(), trialsOfCodes()) {
 		checkTrial(t, x)
 	}
 }
@@ -147,9 +181,15 @@ func checkTrial(t *testing.T, x trial) {
 			t.Errorf("%s(%v): an argument is changed, or a result shares its memory", x.name, x.arguments)
 		}
 	}
-	if code, ok := plain[len(plain)-1].(int64); ok && len(plain) > 1 && code != impl.OK && !zeroButCode(plain) {
+	if noValue(plain) && !zeroButCode(plain) {
 		t.Errorf("%s(%v): got %v, with values beside an error", x.name, x.arguments, plain)
 	}
+}
+
+// noValue reports whether the last one of several results tells that there is no value.
+func noValue(results []any) bool {
+	last := results[len(results)-1]
+	return len(results) > 1 && last != any(int64(impl.OK)) && last != any(true)
 }
 
 // TestEmptyAndNilSlices checks P1: no slice and an empty one are equal arguments.
@@ -164,6 +204,12 @@ func TestEmptyAndNilSlices(t *testing.T) {
 		{"PartOf", impl.PartOf, []any{impl.Field{From: 0, To: 1}}},
 		{"Overlay", impl.Overlay, []any{card(9)}},
 		{"SameCard", impl.SameCard, []any{impl.Card{}}},
+		{"ReadText", impl.ReadText, nil},
+		{"IllegalColumns", impl.IllegalColumns, nil},
+		{"PunchNumber", impl.PunchNumber, []any{impl.Field{From: 0, To: 1}, int64(1)}},
+		{"NumberIn", impl.NumberIn, []any{impl.Field{From: 0, To: 1}}},
+		{"IsBlankField", impl.IsBlankField, []any{impl.Field{From: 0, To: 1}}},
+		{"CompareFields", impl.CompareFields, []any{card(9), impl.Field{From: 0, To: 1}}},
 	} {
 		one, two := call(x.function, append([]any{none}, x.arguments...)...), call(x.function, append([]any{empty}, x.arguments...)...)
 		if !reflect.DeepEqual(one, two) {
