@@ -34,14 +34,66 @@ func copies(count int, c impl.Card) []impl.Card {
 	return deck
 }
 
-// spare is what guarded memory has behind the elements of a slice.
+// spare is the number in the memory behind the elements of a slice, and in memory that is overwritten.
 const spare = -77
 
-// guarded returns the numbers with unused capacity behind them, and all of this memory.
-func guarded(list []int64) ([]int64, []int64) {
-	all := append(slices.Clone(list), spare, spare, spare)
-	return all[:len(list)], all
+// filler returns a value of a type that is not its zero value, where the type has others.
+func filler(of reflect.Type) reflect.Value {
+	out := reflect.New(of).Elem()
+	switch of.Kind() {
+	case reflect.Int64:
+		out.SetInt(spare)
+	case reflect.String:
+		out.SetString("spare")
+	case reflect.Slice:
+		out.Set(reflect.Append(out, filler(of.Elem())))
+	case reflect.Struct:
+		for k := range of.NumField() {
+			out.Field(k).Set(filler(of.Field(k).Type))
+		}
+	}
+	return out
 }
+
+// copied returns a copy of a value with memory of its own. Of each slice it has the first elements, so many as length tells; a nil slice stays one.
+func copied(v reflect.Value, length func(reflect.Value) int) reflect.Value {
+	out := reflect.New(v.Type()).Elem()
+	switch {
+	case v.Kind() == reflect.Struct:
+		for k := range v.NumField() {
+			out.Field(k).Set(copied(v.Field(k), length))
+		}
+	case v.Kind() == reflect.Slice && !v.IsNil():
+		out.Set(reflect.MakeSlice(v.Type(), length(v), length(v)))
+		for k := range length(v) {
+			out.Index(k).Set(copied(v.Slice(0, length(v)).Index(k), length))
+		}
+	case v.Kind() != reflect.Slice:
+		out.Set(v)
+	}
+	return out
+}
+
+// roomy returns a copy of a value, each slice of which has unused capacity that is not empty. A nil slice stays one.
+func roomy(v reflect.Value) reflect.Value {
+	out := copied(v, reflect.Value.Len)
+	switch {
+	case v.Kind() == reflect.Struct:
+		for k := range v.NumField() {
+			out.Field(k).Set(roomy(v.Field(k)))
+		}
+	case v.Kind() == reflect.Slice && !v.IsNil():
+		for k := range v.Len() {
+			out.Index(k).Set(roomy(v.Index(k)))
+		}
+		more := filler(v.Type().Elem())
+		out.Set(reflect.Append(out, roomy(more), roomy(more), roomy(more)).Slice(0, v.Len()))
+	}
+	return out
+}
+
+// memory returns a copy of all that a value has, unused capacity included.
+func memory(x any) any { return copied(reflect.ValueOf(x), reflect.Value.Cap).Interface() }
 
 // panics returns what f panics with; nil if it returns.
 func panics(f func()) (value any) {
@@ -75,39 +127,46 @@ func fails(t *testing.T, code int64, f any, arguments ...any) {
 // spoil overwrites all memory that results of a call have, unused capacity included.
 func spoil(results []any) {
 	for _, x := range results {
-		switch v := x.(type) {
-		case impl.Card:
-			numbers := v.Holes[:cap(v.Holes)]
-			for k := range numbers {
-				numbers[k] = spare
-			}
-		case []int64:
-			numbers := v[:cap(v)]
-			for k := range numbers {
-				numbers[k] = spare
-			}
-		case []string:
-			texts := v[:cap(v)]
-			for k := range texts {
-				texts[k] = "spoiled"
-			}
+		spoilValue(reflect.ValueOf(x))
+	}
+}
+
+func spoilValue(v reflect.Value) {
+	switch v.Kind() {
+	case reflect.Struct:
+		for k := range v.NumField() {
+			spoilValue(v.Field(k))
+		}
+	case reflect.Slice:
+		for k := range v.Cap() {
+			element := v.Slice(0, v.Cap()).Index(k)
+			spoilValue(element)
+			element.Set(filler(element.Type()))
 		}
 	}
 }
 
-// zeroButCode reports whether all results but the last one are zero values.
+// zeroButCode reports whether all results but the last one are zero values; an empty slice counts as one.
 func zeroButCode(results []any) bool {
 	for _, x := range results[:len(results)-1] {
-		v := reflect.ValueOf(x)
-		if v.Kind() == reflect.Slice && v.Len() == 0 {
-			continue
-		}
-		if c, ok := x.(impl.Card); ok && len(c.Holes) == 0 {
-			continue
-		}
-		if !v.IsZero() {
+		if !isZero(reflect.ValueOf(x)) {
 			return false
 		}
 	}
 	return true
+}
+
+func isZero(v reflect.Value) bool {
+	switch v.Kind() {
+	case reflect.Slice:
+		return v.Len() == 0
+	case reflect.Struct:
+		for k := range v.NumField() {
+			if !isZero(v.Field(k)) {
+				return false
+			}
+		}
+		return true
+	}
+	return v.IsZero()
 }

@@ -1,6 +1,7 @@
 package tests
 
 import (
+	"fmt"
 	"math"
 	"reflect"
 	"slices"
@@ -33,7 +34,7 @@ func trialsOfBasics() []trial {
 	return list
 }
 
-// trialsOfCards are calls of all functions of chapter 2; each card and each deck has unused capacity.
+// trialsOfCards are calls of all functions of chapter 2.
 func trialsOfCards() []trial {
 	var list []trial
 	for _, n := range edges() {
@@ -61,7 +62,7 @@ func trialsOfCards() []trial {
 	return list
 }
 
-// trialsOfCodes are calls of all functions of chapter 3; each card has unused capacity.
+// trialsOfCodes are calls of all functions of chapter 3.
 func trialsOfCodes() []trial {
 	var list []trial
 	for b := range 256 {
@@ -95,71 +96,66 @@ func trialsOfCodes() []trial {
 	return list
 }
 
-// guard is the memory of an argument, and what it was before a call.
-type guard struct {
-	now, before []int64
-	cards       []impl.Card
-	lists       [][]int64
-}
-
-// changed reports whether the memory is not as it was.
-func (g guard) changed() bool {
-	for k, c := range g.cards {
-		if !slices.Equal(c.Holes, g.lists[k]) || (c.Holes == nil) != (g.lists[k] == nil) {
-			return true
+// trialsOfLayouts are calls of all functions of chapter 4.
+func trialsOfLayouts() []trial {
+	var list []trial
+	layouts := append(someLayouts(), wrongLayouts()[:30]...)
+	// Copying thousands of items again and again would take too long.
+	layouts = slices.DeleteFunc(layouts, func(l impl.Layout) bool { return len(l.Items) > impl.MaxColumns })
+	items := slices.Concat(goodItems(), wrongItems(impl.MaxColumns))
+	cards := []impl.Card{{}, card(3), card(-1), card(0, 0, 0), cardOf("AB0-12 "), cardOf("AB 012 "), cardOf(" B    X"), wide(7, 0), wide(7, impl.AllRows), wide(7, -1), wide(impl.MaxColumns, 0), wide(impl.MaxColumns, 16), wide(impl.MaxColumns+1, 0)}
+	decks := [][]impl.Card{nil, {}, {{}}, {cardOf("AB 012 "), cardOf("AB 01K ")}, {cardOf("AB 012 "), cardOf("AB ")}, cards, copies(impl.MaxDeck, cardOf("AB 012 ")), copies(impl.MaxDeck+1, cardOf("AB 012 "))}
+	records := [][]string{nil, {}, {"A"}, {"AB", "-12"}, {"AB ", "-12"}, {"AB", "1000"}, {"ab", "1000", "1"}, slices.Repeat([]string{"1"}, 12), slices.Repeat([]string{""}, 13)}
+	names := []string{"", "who", "qty", "a", "Who", "\xff"}
+	for _, l := range layouts {
+		list = append(list, trial{"ValidLayout", impl.ValidLayout, []any{l}}, trial{"FreeColumns", impl.FreeColumns, []any{l}}, trial{"LayoutText", impl.LayoutText, []any{l}})
+		for _, x := range items {
+			list = append(list, trial{"AddItem", impl.AddItem, []any{l, x}})
+		}
+		for _, other := range layouts {
+			list = append(list, trial{"SameLayout", impl.SameLayout, []any{l, other}})
+		}
+		for _, values := range records {
+			list = append(list, trial{"CardFor", impl.CardFor, []any{l, values}})
+		}
+		for _, c := range cards {
+			list = append(list, trial{"RecordOf", impl.RecordOf, []any{l, c}})
+		}
+		for _, name := range names {
+			list = append(list, trial{"ItemNamed", impl.ItemNamed, []any{l, name}})
+			for _, value := range []string{"", "AB", "AB ", "7", "-12", "07", "\xff", "1000000000000"} {
+				for _, c := range cards {
+					list = append(list, trial{"ChangeItem", impl.ChangeItem, []any{l, c, name, value}})
+				}
+				for _, deck := range decks {
+					list = append(list, trial{"CountValue", impl.CountValue, []any{l, deck, name, value}})
+				}
+			}
+			for _, deck := range decks {
+				list = append(list, trial{"ItemTotal", impl.ItemTotal, []any{l, deck, name}})
+			}
 		}
 	}
-	return !slices.Equal(g.now, g.before)
-}
-
-// guardCard returns the card with unused capacity behind its columns, and its guard. A card without a list stays one.
-func guardCard(c impl.Card) (impl.Card, guard) {
-	if c.Holes == nil {
-		return c, guard{}
+	for _, s := range append(wrongTexts(), texts()...) {
+		list = append(list, trial{"ReadLayout", impl.ReadLayout, []any{s}})
 	}
-	holes, all := guarded(c.Holes)
-	return impl.Card{Holes: holes}, guard{now: all, before: slices.Clone(all)}
-}
-
-// guardArgument returns an argument with unused capacity behind each of its slices, and the guards of its memory.
-func guardArgument(x any) (any, []guard) {
-	switch v := x.(type) {
-	case impl.Card:
-		c, g := guardCard(v)
-		return c, []guard{g}
-	case []impl.Card:
-		if v == nil {
-			return v, nil
-		}
-		var deck []impl.Card
-		var guards []guard
-		for _, c := range append(slices.Clone(v), card(spare), card(spare, spare)) {
-			d, g := guardCard(c)
-			deck, guards = append(deck, d), append(guards, g)
-		}
-		whole := guard{cards: deck}
-		for _, c := range deck {
-			whole.lists = append(whole.lists, slices.Clone(c.Holes))
-		}
-		return deck[:len(v)], append(guards, whole)
-	}
-	return x, nil
+	return list
 }
 
 // TestPurityAndTotality checks P1 for all trials: each call returns, returns the same again, changes no argument, and returns memory of its own.
 func TestPurityAndTotality(t *testing.T) {
-	for _, x := range slices.Concat(trialsOfBasics(), trialsOfCards(), trialsOfCodes()) {
+	for _, x := range slices.Concat(trialsOfBasics(), trialsOfCards(), trialsOfCodes(), trialsOfLayouts()) {
 		checkTrial(t, x)
 	}
 }
 
 func checkTrial(t *testing.T, x trial) {
 	t.Helper()
-	var arguments []any
-	var guards []guard
+	// The memory behind each argument's elements must neither be changed nor change a result.
+	var arguments, before []any
 	for _, a := range x.arguments {
-		b, g := guardArgument(a)
-		arguments, guards = append(arguments, b), append(guards, g...)
+		b := roomy(reflect.ValueOf(a)).Interface()
+		arguments, before = append(arguments, b), append(before, memory(b))
 	}
 	var plain, one, two []any
 	broken := panics(func() {
@@ -176,8 +172,8 @@ func checkTrial(t *testing.T, x trial) {
 		t.Errorf("%s(%v): two results share memory", x.name, x.arguments)
 	}
 	spoil(two)
-	for _, g := range guards {
-		if g.changed() {
+	for k, a := range arguments {
+		if !reflect.DeepEqual(memory(a), before[k]) {
 			t.Errorf("%s(%v): an argument is changed, or a result shares its memory", x.name, x.arguments)
 		}
 	}
@@ -217,4 +213,33 @@ func TestEmptyAndNilSlices(t *testing.T) {
 		}
 	}
 	same(t, "decks", "true true", impl.ValidDeck(nil), impl.ValidDeck([]impl.Card{}))
+}
+
+// TestEmptyAndNilSlicesOfLayouts checks the same for layouts, values and decks.
+func TestEmptyAndNilSlicesOfLayouts(t *testing.T) {
+	one, two := impl.Layout{Width: 3}, impl.Layout{Width: 3, Items: []impl.Item{}}
+	for _, x := range []trial{
+		{"ValidLayout", impl.ValidLayout, nil},
+		{"SameLayout", impl.SameLayout, []any{one}},
+		{"SameLayout", impl.SameLayout, []any{two}},
+		{"ItemNamed", impl.ItemNamed, []any{"a"}},
+		{"AddItem", impl.AddItem, []any{item("a", impl.ItemText, 0, 1)}},
+		{"FreeColumns", impl.FreeColumns, nil},
+		{"RecordOf", impl.RecordOf, []any{card(1, 2, 3)}},
+		{"CardFor", impl.CardFor, []any{[]string(nil)}},
+		{"CardFor", impl.CardFor, []any{[]string{}}},
+		{"ChangeItem", impl.ChangeItem, []any{card(1, 2, 3), "a", "1"}},
+		{"ItemTotal", impl.ItemTotal, []any{[]impl.Card(nil), "a"}},
+		{"CountValue", impl.CountValue, []any{[]impl.Card(nil), "a", "1"}},
+		{"LayoutText", impl.LayoutText, nil},
+	} {
+		a, b := call(x.function, append([]any{one}, x.arguments...)...), call(x.function, append([]any{two}, x.arguments...)...)
+		same(t, x.name+" of layouts without items", fmt.Sprint(b...), fmt.Sprint(a...))
+	}
+	same(t, "SameLayout of no items and no items", "true true", impl.SameLayout(one, two), impl.SameLayout(two, one))
+	for _, deck := range [][]impl.Card{nil, {}} {
+		sum, one := impl.ItemTotal(shop(), deck, "qty")
+		count, two := impl.CountValue(shop(), deck, "qty", "0")
+		same(t, "no cards", "0 0 0 0", sum, one, count, two)
+	}
 }
