@@ -1,6 +1,7 @@
 package tests
 
 import (
+	"cmp"
 	"fmt"
 	"reflect"
 	"slices"
@@ -144,6 +145,43 @@ func spoilValue(v reflect.Value) {
 			element.Set(filler(element.Type()))
 		}
 	}
+}
+
+// A span is the memory of a slice, unused capacity included.
+type span struct{ from, to uintptr }
+
+// spansIn returns the memory of all slices that a value has.
+func spansIn(v reflect.Value) []span {
+	var list []span
+	switch v.Kind() {
+	case reflect.Struct:
+		for k := range v.NumField() {
+			list = append(list, spansIn(v.Field(k))...)
+		}
+	case reflect.Slice:
+		if size := uintptr(v.Cap()) * v.Type().Elem().Size(); size > 0 {
+			list = append(list, span{v.Pointer(), v.Pointer() + size})
+		}
+		for k := range v.Len() {
+			list = append(list, spansIn(v.Index(k))...)
+		}
+	}
+	return list
+}
+
+// separate reports whether no two slices of some results share memory.
+func separate(results []any) bool {
+	var all []span
+	for _, x := range results {
+		all = append(all, spansIn(reflect.ValueOf(x))...)
+	}
+	slices.SortFunc(all, func(a, b span) int { return cmp.Compare(a.from, b.from) })
+	for k := 1; k < len(all); k++ {
+		if all[k].from < all[k-1].to {
+			return false
+		}
+	}
+	return true
 }
 
 // zeroButCode reports whether all results but the last one are zero values; an empty slice counts as one.

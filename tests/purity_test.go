@@ -5,6 +5,7 @@ import (
 	"math"
 	"reflect"
 	"slices"
+	"strings"
 	"testing"
 
 	"loop.example/g01012/impl"
@@ -142,9 +143,48 @@ func trialsOfLayouts() []trial {
 	return list
 }
 
+// trialsOfKeypunch are calls of all functions of chapter 5.
+func trialsOfKeypunch() []trial {
+	var list []trial
+	cards := []impl.Card{{}, card(), card(9), card(3, impl.AllRows, 0), cardOf("AB12 Q"), cardOf("CD34 Q"), worn(6), wide(6, 4096), card(-1), wide(impl.MaxColumns, 0), wide(impl.MaxColumns, 16), wide(impl.MaxColumns+1, 0)}
+	decks := [][]impl.Card{nil, {}, {{}}, {card(9)}, {cardOf("AB12 Q"), cardOf("CD34 R")}, {card(9), card(9, 9)}, cards, copies(impl.MaxDeck, cardOf("AB12 Q")), copies(impl.MaxDeck+1, card(9))}
+	texts := [][]string{nil, {}, {""}, {"A"}, {"AB12", "CD34"}, {"AB12", "CD3a", "A"}, {"7777777777"}, slices.Repeat([]string{"AB12"}, impl.MaxDeck), slices.Repeat([]string{"A"}, impl.MaxDeck), slices.Repeat([]string{""}, impl.MaxDeck+1)}
+	for _, program := range []string{"", "m", "s", "d", "mmnnsd", "dsm", "ddd", "x", "M", "mn\xff", "d\u016d", strings.Repeat("mnsd", 5), strings.Repeat("d", impl.MaxColumns), strings.Repeat("d", impl.MaxColumns+1)} {
+		list = append(list, trial{"ValidProgram", impl.ValidProgram, []any{program}}, trial{"KeysNeeded", impl.KeysNeeded, []any{program}}, trial{"ProgramRuns", impl.ProgramRuns, []any{program}})
+		for _, n := range append(edges(), 100, 1000000, 1000001) {
+			list = append(list, trial{"StrokesSaved", impl.StrokesSaved, []any{program, n}})
+		}
+		for _, before := range cards {
+			for _, keys := range []string{"", "A", "AB12", "ABC2", "aB12", "7777777777", "\xff", strings.Repeat("A", 1000)} {
+				list = append(list, trial{"PunchByProgram", impl.PunchByProgram, []any{program, before, keys}})
+				for _, c := range cards {
+					list = append(list, trial{"KeysFor", impl.KeysFor, []any{program, before, c}}, trial{"VerifyCard", impl.VerifyCard, []any{program, before, c, keys}})
+				}
+			}
+			for _, keys := range texts {
+				list = append(list, trial{"PunchAll", impl.PunchAll, []any{program, before, keys}})
+				for _, deck := range decks {
+					list = append(list, trial{"VerifyAll", impl.VerifyAll, []any{program, before, deck, keys}})
+				}
+			}
+		}
+	}
+	for _, c := range append(cards, slices.Concat(someCards(), wrongCards()[:8])...) {
+		for _, n := range edges() {
+			for _, char := range []byte("9 a\x00\xff") {
+				list = append(list, trial{"CorrectColumn", impl.CorrectColumn, []any{c, n, char}})
+			}
+		}
+	}
+	for _, s := range append(wrongRuns(), "m2 n2 s1 d1", "m20", "s1") {
+		list = append(list, trial{"ReadRuns", impl.ReadRuns, []any{s}})
+	}
+	return list
+}
+
 // TestPurityAndTotality checks P1 for all trials: each call returns, returns the same again, changes no argument, and returns memory of its own.
 func TestPurityAndTotality(t *testing.T) {
-	for _, x := range slices.Concat(trialsOfBasics(), trialsOfCards(), trialsOfCodes(), trialsOfLayouts()) {
+	for _, x := range slices.Concat(trialsOfBasics(), trialsOfCards(), trialsOfCodes(), trialsOfLayouts(), trialsOfKeypunch()) {
 		checkTrial(t, x)
 	}
 }
@@ -166,6 +206,9 @@ func checkTrial(t *testing.T, x trial) {
 	}
 	if !reflect.DeepEqual(plain, one) || !reflect.DeepEqual(one, two) {
 		t.Errorf("%s(%v): got %v, %v and %v", x.name, x.arguments, plain, one, two)
+	}
+	if !separate(one) {
+		t.Errorf("%s(%v): two slices of the results share memory", x.name, x.arguments)
 	}
 	spoil(one)
 	if !reflect.DeepEqual(plain, two) {
@@ -242,4 +285,41 @@ func TestEmptyAndNilSlicesOfLayouts(t *testing.T) {
 		count, two := impl.CountValue(shop(), deck, "qty", "0")
 		same(t, "no cards", "0 0 0 0", sum, one, count, two)
 	}
+}
+
+// TestEmptyAndNilSlicesOfKeypunch checks the same for cards, decks and keys.
+func TestEmptyAndNilSlicesOfKeypunch(t *testing.T) {
+	for _, x := range []trial{
+		{"PunchByProgram", impl.PunchByProgram, []any{"m", impl.Card{}, "A"}},
+		{"KeysFor", impl.KeysFor, []any{"m", impl.Card{}, card(9)}},
+		{"KeysFor", impl.KeysFor, []any{"m", card(9), impl.Card{}}},
+		{"PunchAll", impl.PunchAll, []any{"m", card(9), []string(nil)}},
+		{"PunchAll", impl.PunchAll, []any{"m", impl.Card{}, []string(nil)}},
+		{"VerifyCard", impl.VerifyCard, []any{"m", impl.Card{}, card(9), "A"}},
+		{"VerifyCard", impl.VerifyCard, []any{"m", card(9), impl.Card{}, "A"}},
+		{"VerifyAll", impl.VerifyAll, []any{"m", card(9), []impl.Card(nil), []string(nil)}},
+		{"VerifyAll", impl.VerifyAll, []any{"m", impl.Card{}, []impl.Card(nil), []string(nil)}},
+		{"VerifyAll", impl.VerifyAll, []any{"m", card(9), []impl.Card(nil), []string{"A"}}},
+		{"CorrectColumn", impl.CorrectColumn, []any{impl.Card{}, int64(0), byte('A')}},
+	} {
+		var others []any
+		for _, a := range x.arguments {
+			others = append(others, emptied(a))
+		}
+		one, two := call(x.function, x.arguments...), call(x.function, others...)
+		same(t, fmt.Sprintf("%s(%v) with empty slices", x.name, x.arguments), fmt.Sprint(one...), fmt.Sprint(two...))
+	}
+}
+
+// emptied returns an argument with an empty slice instead of a nil one.
+func emptied(x any) any {
+	switch v := x.(type) {
+	case impl.Card:
+		return impl.Card{Holes: append([]int64{}, v.Holes...)}
+	case []impl.Card:
+		return append([]impl.Card{}, v...)
+	case []string:
+		return append([]string{}, v...)
+	}
+	return x
 }
