@@ -126,13 +126,21 @@ func BitOf(row int64) (int64, int64) {
 	return 0, ErrRange
 }
 
-// bitOn returns the bit of a row of a column of a card.
-func bitOn(c Card, column, row int64) (int64, int64) {
+// checkColumn returns the error of a card that should have a column.
+func checkColumn(c Card, column int64) int64 {
 	if !ValidCard(c) {
-		return 0, ErrInvalid
+		return ErrInvalid
 	}
 	if !isColumnOf(column, int64(len(c.Holes))) {
-		return 0, ErrRange
+		return ErrRange
+	}
+	return OK
+}
+
+// bitOn returns the bit of a row of a column of a card.
+func bitOn(c Card, column, row int64) (int64, int64) {
+	if code := checkColumn(c, column); code != OK {
+		return 0, code
 	}
 	return BitOf(row)
 }

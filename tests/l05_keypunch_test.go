@@ -704,10 +704,12 @@ func TestErrorsOfVerifyAll(t *testing.T) {
 	}
 }
 
+// wrongColumns are columns that cards with so many columns do not have.
+func wrongColumns(width int64) []int64 {
+	return []int64{-1, -2, width, width + 1, 1 << 32, -1 << 32, math.MinInt64, math.MaxInt64}
+}
+
 func TestCorrectColumn(t *testing.T) {
-	wrongColumns := func(width int64) []int64 {
-		return []int64{-1, -2, width, width + 1, 1 << 32, -1 << 32, math.MinInt64, math.MaxInt64}
-	}
 	for _, c := range append(someCards(), cardOf("AB12 Q"), card(3), card(3, 6, 4095)) {
 		width := int64(len(c.Holes))
 		for b := range 256 {

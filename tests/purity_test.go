@@ -182,9 +182,37 @@ func trialsOfKeypunch() []trial {
 	return list
 }
 
+// trialsOfDamages are calls of all functions of chapter 6.
+func trialsOfDamages() []trial {
+	var list []trial
+	cards := slices.Concat(someCards(), wrongCards(), []impl.Card{card(3), card(25), card(9, 0, 9), card(0, 9, 0), card(0, 0, 0), cardOf("AB1"), cardOf(" AB"), worn(19), worn(impl.MaxColumns)})
+	// Copying a card of a thousand columns again and again would take too long.
+	cards = slices.DeleteFunc(cards, func(c impl.Card) bool { return len(c.Holes) > 30 })
+	decks := [][]impl.Card{nil, {}, {{}}, {card(9)}, {card(9), card(4), card(9)}, {card(9), card(4, 0)}, {card(9), {}}, {cardOf("AB1"), cardOf("AC1")}, cards, copies(impl.MaxDeck, cardOf("ZZZ")), copies(impl.MaxDeck, wide(impl.MaxColumns, 0)), copies(impl.MaxDeck+1, card(9))}
+	for _, n := range append(edges(), 25, 2048, impl.AllRows-1, impl.AllRows, impl.AllRows+1) {
+		list = append(list, trial{"RepairColumn", impl.RepairColumn, []any{n}})
+	}
+	for _, c := range cards {
+		list = append(list, trial{"LacedColumns", impl.LacedColumns, []any{c}}, trial{"RepairCard", impl.RepairCard, []any{c}})
+		for _, n := range append(edges(), -20, -19, -2) {
+			list = append(list, trial{"LaceColumn", impl.LaceColumn, []any{c, n}}, trial{"ShiftCard", impl.ShiftCard, []any{c, n}})
+			for _, m := range edges() {
+				list = append(list, trial{"TornColumns", impl.TornColumns, []any{c, impl.Field{From: n, To: m}}})
+			}
+		}
+		for _, d := range cards {
+			list = append(list, trial{"DistanceOf", impl.DistanceOf, []any{c, d}}, trial{"ShiftOf", impl.ShiftOf, []any{c, d}}, trial{"AddedHoles", impl.AddedHoles, []any{c, d}}, trial{"LostHoles", impl.LostHoles, []any{c, d}})
+		}
+		for _, deck := range decks {
+			list = append(list, trial{"NearestCard", impl.NearestCard, []any{deck, c}})
+		}
+	}
+	return list
+}
+
 // TestPurityAndTotality checks P1 for all trials: each call returns, returns the same again, changes no argument, and returns memory of its own.
 func TestPurityAndTotality(t *testing.T) {
-	for _, x := range slices.Concat(trialsOfBasics(), trialsOfCards(), trialsOfCodes(), trialsOfLayouts(), trialsOfKeypunch()) {
+	for _, x := range slices.Concat(trialsOfBasics(), trialsOfCards(), trialsOfCodes(), trialsOfLayouts(), trialsOfKeypunch(), trialsOfDamages()) {
 		checkTrial(t, x)
 	}
 }
@@ -302,13 +330,42 @@ func TestEmptyAndNilSlicesOfKeypunch(t *testing.T) {
 		{"VerifyAll", impl.VerifyAll, []any{"m", card(9), []impl.Card(nil), []string{"A"}}},
 		{"CorrectColumn", impl.CorrectColumn, []any{impl.Card{}, int64(0), byte('A')}},
 	} {
-		var others []any
-		for _, a := range x.arguments {
-			others = append(others, emptied(a))
-		}
-		one, two := call(x.function, x.arguments...), call(x.function, others...)
-		same(t, fmt.Sprintf("%s(%v) with empty slices", x.name, x.arguments), fmt.Sprint(one...), fmt.Sprint(two...))
+		checkEmptied(t, x)
 	}
+}
+
+// TestEmptyAndNilSlicesOfDamages checks the same for cards and decks.
+func TestEmptyAndNilSlicesOfDamages(t *testing.T) {
+	for _, x := range []trial{
+		{"DistanceOf", impl.DistanceOf, []any{impl.Card{}, card(9)}},
+		{"DistanceOf", impl.DistanceOf, []any{impl.Card{}, impl.Card{}}},
+		{"LaceColumn", impl.LaceColumn, []any{impl.Card{}, int64(0)}},
+		{"LacedColumns", impl.LacedColumns, []any{impl.Card{}}},
+		{"ShiftCard", impl.ShiftCard, []any{impl.Card{}, int64(0)}},
+		{"ShiftOf", impl.ShiftOf, []any{card(9), impl.Card{}}},
+		{"ShiftOf", impl.ShiftOf, []any{impl.Card{}, impl.Card{}}},
+		{"AddedHoles", impl.AddedHoles, []any{impl.Card{}, card(9)}},
+		{"LostHoles", impl.LostHoles, []any{card(9), impl.Card{}}},
+		{"RepairCard", impl.RepairCard, []any{impl.Card{}}},
+		{"NearestCard", impl.NearestCard, []any{[]impl.Card(nil), card(9)}},
+		{"NearestCard", impl.NearestCard, []any{[]impl.Card(nil), impl.Card{}}},
+		{"NearestCard", impl.NearestCard, []any{[]impl.Card{card(9)}, impl.Card{}}},
+		{"NearestCard", impl.NearestCard, []any{[]impl.Card{{}}, card(9)}},
+		{"TornColumns", impl.TornColumns, []any{impl.Card{}, impl.Field{From: 0, To: 1}}},
+	} {
+		checkEmptied(t, x)
+	}
+}
+
+// checkEmptied checks that a call returns the same with empty slices instead of nil ones.
+func checkEmptied(t *testing.T, x trial) {
+	t.Helper()
+	var others []any
+	for _, a := range x.arguments {
+		others = append(others, emptied(a))
+	}
+	one, two := call(x.function, x.arguments...), call(x.function, others...)
+	same(t, fmt.Sprintf("%s(%v) with empty slices", x.name, x.arguments), fmt.Sprint(one...), fmt.Sprint(two...))
 }
 
 // emptied returns an argument with an empty slice instead of a nil one.
@@ -317,7 +374,11 @@ func emptied(x any) any {
 	case impl.Card:
 		return impl.Card{Holes: append([]int64{}, v.Holes...)}
 	case []impl.Card:
-		return append([]impl.Card{}, v...)
+		deck := []impl.Card{}
+		for _, c := range v {
+			deck = append(deck, emptied(c).(impl.Card))
+		}
+		return deck
 	case []string:
 		return append([]string{}, v...)
 	}
