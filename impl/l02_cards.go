@@ -14,6 +14,13 @@ const (
 	AllRows    = 4095
 )
 
+// Holes of the rows 12, 11 and 0.
+const (
+	hole12 = 1 << iota
+	hole11
+	hole0
+)
+
 // Card are the holes of the columns of a card.
 type Card struct {
 	Holes []int64
@@ -105,6 +112,18 @@ func ValidDeck(deck []Card) bool {
 // SameDeck reports whether two lists of cards are equal.
 func SameDeck(a, b []Card) bool { return slices.EqualFunc(a, b, SameCard) }
 
+// copyOf returns a card with memory of its own.
+func copyOf(c Card) Card { return Card{Holes: slices.Clone(c.Holes)} }
+
+// copiesOf returns equal cards with memory of their own.
+func copiesOf(cards []Card) []Card {
+	list := make([]Card, len(cards))
+	for place, c := range cards {
+		list[place] = copyOf(c)
+	}
+	return list
+}
+
 // BlankCard returns a card without holes.
 func BlankCard(width int64) (Card, int64) {
 	if !isWidth(width) {
@@ -117,11 +136,11 @@ func BlankCard(width int64) (Card, int64) {
 func BitOf(row int64) (int64, int64) {
 	switch {
 	case row == 12:
-		return 1, OK
+		return hole12, OK
 	case row == 11:
-		return 2, OK
+		return hole11, OK
 	case 0 <= row && row <= 9:
-		return 4 << row, OK
+		return hole0 << row, OK
 	}
 	return 0, ErrRange
 }

@@ -210,10 +210,59 @@ func trialsOfDamages() []trial {
 	return list
 }
 
+// trialsOfSorter are calls of all functions of chapter 7.
+func trialsOfSorter() []trial {
+	var list []trial
+	decks := slices.Concat(goodDecks(), wrongDecks(), [][]impl.Card{deckOf("A1", "A1", "B2", " 0"), numbered(allMasks()[100:140]...), numbered(charMasks()...)})
+	// Copying a card of a thousand columns again and again would take too long.
+	decks = slices.DeleteFunc(decks, func(deck []impl.Card) bool { return len(deck) > 0 && len(deck[0].Holes) > 30 })
+	var passes []impl.Pass
+	for _, column := range edges() {
+		for _, mode := range []int64{math.MinInt64, -1, 0, impl.ModeDigits, impl.ModeZones, 3, math.MaxInt64} {
+			passes = append(passes, impl.Pass{Column: column, Mode: mode})
+		}
+	}
+	lists := [][]impl.Pass{nil, {}, passes[:1], passes, rightPasses(1), rightPasses(3), rightPasses(impl.MaxColumns), append(rightPasses(impl.MaxColumns), passes[0]), append(rightPasses(2), passes...), slices.Repeat(rightPasses(1)[1:], impl.MaxPasses+1)}
+	for _, l := range lists {
+		list = append(list, trial{"PassText", impl.PassText, []any{l}})
+	}
+	for _, c := range append(someCards(), wrongCards()[:8]...) {
+		for _, p := range passes {
+			list = append(list, trial{"PocketOf", impl.PocketOf, []any{c, p}})
+		}
+	}
+	for _, deck := range decks {
+		for _, p := range append(passes[len(passes)/2-40:], rightPasses(3)...) {
+			list = append(list, trial{"SortPass", impl.SortPass, []any{deck, p}}, trial{"RunPass", impl.RunPass, []any{deck, p}})
+		}
+		for _, l := range lists {
+			list = append(list, trial{"RunPasses", impl.RunPasses, []any{deck, l}})
+		}
+		for _, mode := range []int64{math.MinInt64, 0, impl.ModeDigits, impl.ModeZones, 3, math.MaxInt64} {
+			for _, pockets := range [][][]impl.Card{nil, {}, {deck}, make([][]impl.Card, 13), inPockets(0, deck...), inPockets(10, deck...), inPockets(12, deck...), slices.Repeat([][]impl.Card{{}}, 14), slices.Repeat([][]impl.Card{deck}, 13)} {
+				list = append(list, trial{"GatherCards", impl.GatherCards, []any{pockets, mode}})
+			}
+		}
+		for _, from := range edges() {
+			for _, to := range []int64{math.MinInt64, -1, 0, 1, 2, 3, 20, 21, math.MaxInt64} {
+				for _, f := range sortings() {
+					list = append(list, trial{"sorting", f, []any{deck, impl.Field{From: from, To: to}}})
+				}
+			}
+		}
+	}
+	return list
+}
+
 // TestPurityAndTotality checks P1 for all trials: each call returns, returns the same again, changes no argument, and returns memory of its own.
 func TestPurityAndTotality(t *testing.T) {
-	for _, x := range slices.Concat(trialsOfBasics(), trialsOfCards(), trialsOfCodes(), trialsOfLayouts(), trialsOfKeypunch(), trialsOfDamages()) {
-		checkTrial(t, x)
+	for _, trials := range []func() []trial{trialsOfBasics, trialsOfCards, trialsOfCodes, trialsOfLayouts, trialsOfKeypunch, trialsOfDamages, trialsOfSorter} {
+		t.Run("", func(t *testing.T) {
+			t.Parallel()
+			for _, x := range trials() {
+				checkTrial(t, x)
+			}
+		})
 	}
 }
 
@@ -357,6 +406,33 @@ func TestEmptyAndNilSlicesOfDamages(t *testing.T) {
 	}
 }
 
+// TestEmptyAndNilSlicesOfSorter checks the same for cards, decks, passes and pockets.
+func TestEmptyAndNilSlicesOfSorter(t *testing.T) {
+	none, digit, whole := []impl.Card(nil), impl.Pass{Column: 0, Mode: impl.ModeDigits}, impl.Field{From: 0, To: 1}
+	list := []trial{
+		{"PocketOf", impl.PocketOf, []any{impl.Card{}, digit}},
+		{"SortPass", impl.SortPass, []any{none, digit}},
+		{"SortPass", impl.SortPass, []any{[]impl.Card{{}}, digit}},
+		{"GatherCards", impl.GatherCards, []any{[][]impl.Card(nil), int64(impl.ModeDigits)}},
+		{"GatherCards", impl.GatherCards, []any{make([][]impl.Card, 12), int64(impl.ModeDigits)}},
+		{"GatherCards", impl.GatherCards, []any{make([][]impl.Card, 13), int64(impl.ModeZones)}},
+		{"GatherCards", impl.GatherCards, []any{inPockets(12, card(9)), int64(impl.ModeZones)}},
+		{"GatherCards", impl.GatherCards, []any{make([][]impl.Card, 13), int64(3)}},
+		{"RunPass", impl.RunPass, []any{none, digit}},
+		{"RunPass", impl.RunPass, []any{none, impl.Pass{}}},
+		{"RunPasses", impl.RunPasses, []any{none, []impl.Pass(nil)}},
+		{"RunPasses", impl.RunPasses, []any{[]impl.Card{card(9)}, []impl.Pass(nil)}},
+		{"RunPasses", impl.RunPasses, []any{[]impl.Card{{}}, []impl.Pass(nil)}},
+		{"PassText", impl.PassText, []any{[]impl.Pass(nil)}},
+	}
+	for _, f := range sortings() {
+		list = append(list, trial{"sorting", f, []any{none, whole}}, trial{"sorting", f, []any{none, impl.Field{}}}, trial{"sorting", f, []any{[]impl.Card{{}}, whole}})
+	}
+	for _, x := range list {
+		checkEmptied(t, x)
+	}
+}
+
 // checkEmptied checks that a call returns the same with empty slices instead of nil ones.
 func checkEmptied(t *testing.T, x trial) {
 	t.Helper()
@@ -379,6 +455,14 @@ func emptied(x any) any {
 			deck = append(deck, emptied(c).(impl.Card))
 		}
 		return deck
+	case [][]impl.Card:
+		lists := [][]impl.Card{}
+		for _, deck := range v {
+			lists = append(lists, emptied(deck).([]impl.Card))
+		}
+		return lists
+	case []impl.Pass:
+		return append([]impl.Pass{}, v...)
 	case []string:
 		return append([]string{}, v...)
 	}
