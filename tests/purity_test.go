@@ -254,9 +254,52 @@ func trialsOfSorter() []trial {
 	return list
 }
 
+// trialsOfPlans are calls of all functions of chapter 8.
+func trialsOfPlans() []trial {
+	var list []trial
+	decks := slices.Concat(goodDecks(), wrongDecks(), [][]impl.Card{deckOf("A1", "A1", "B2", " 0"), deckOf("ABJK", "AB1J", "AAAA", "KABA", "BBBB"), numbered(allMasks()[100:140]...), numbered(charMasks()...)})
+	// Copying a card of a thousand columns again and again would take too long.
+	decks = slices.DeleteFunc(decks, func(deck []impl.Card) bool { return len(deck) > 0 && len(deck[0].Holes) > 30 })
+	widest := planFor(impl.Field{From: 0, To: impl.MaxColumns})
+	lists := [][]impl.Pass{nil, {}, words("0d"), words("0d 0z"), words("0z 0d"), words("1d 1z 0d 0z"), words("2d 0d 0z"), widest, append(widest, by(0, 1)), {by(0, 0)}, {by(0, 1), by(-1, 2)}, {by(0, 1), by(20, 1)}, {by(math.MinInt64, math.MaxInt64)}, {by(math.MaxInt64, math.MinInt64)}, slices.Repeat(words("0d"), 1000)}
+	var fields []impl.Field
+	for _, from := range edges() {
+		for _, to := range append(edges(), 4, 5) {
+			fields = append(fields, impl.Field{From: from, To: to})
+		}
+	}
+	for _, f := range fields {
+		list = append(list, trial{"FullPlan", impl.FullPlan, []any{f}}, trial{"DigitPlan", impl.DigitPlan, []any{f}})
+		for _, l := range lists {
+			list = append(list, trial{"AlwaysSorts", impl.AlwaysSorts, []any{f, l}})
+		}
+	}
+	for _, l := range lists {
+		for _, n := range append(edges(), 1000000, 1000001) {
+			list = append(list, trial{"HandledCards", impl.HandledCards, []any{n, l}})
+		}
+	}
+	for _, deck := range decks {
+		for _, column := range edges() {
+			for _, mode := range []int64{math.MinInt64, 0, impl.ModeDigits, impl.ModeZones, 3, math.MaxInt64} {
+				list = append(list, trial{"IsIdlePass", impl.IsIdlePass, []any{deck, by(column, mode)}})
+			}
+		}
+		for at, f := range fields {
+			list = append(list, trial{"ShortPlan", impl.ShortPlan, []any{deck, f}}, trial{"FewestPasses", impl.FewestPasses, []any{deck, f}}, trial{"IsPlanFor", impl.IsPlanFor, []any{deck, f, lists[at%len(lists)]}})
+		}
+		for _, f := range []impl.Field{{From: 0, To: 1}, {From: 0, To: 2}, {From: 1, To: 3}, {From: 0, To: impl.MaxColumns}, {}} {
+			for _, l := range lists {
+				list = append(list, trial{"IsPlanFor", impl.IsPlanFor, []any{deck, f, l}})
+			}
+		}
+	}
+	return list
+}
+
 // TestPurityAndTotality checks P1 for all trials: each call returns, returns the same again, changes no argument, and returns memory of its own.
 func TestPurityAndTotality(t *testing.T) {
-	for _, trials := range []func() []trial{trialsOfBasics, trialsOfCards, trialsOfCodes, trialsOfLayouts, trialsOfKeypunch, trialsOfDamages, trialsOfSorter} {
+	for _, trials := range []func() []trial{trialsOfBasics, trialsOfCards, trialsOfCodes, trialsOfLayouts, trialsOfKeypunch, trialsOfDamages, trialsOfSorter, trialsOfPlans} {
 		t.Run("", func(t *testing.T) {
 			t.Parallel()
 			for _, x := range trials() {
@@ -427,6 +470,29 @@ func TestEmptyAndNilSlicesOfSorter(t *testing.T) {
 	}
 	for _, f := range sortings() {
 		list = append(list, trial{"sorting", f, []any{none, whole}}, trial{"sorting", f, []any{none, impl.Field{}}}, trial{"sorting", f, []any{[]impl.Card{{}}, whole}})
+	}
+	for _, x := range list {
+		checkEmptied(t, x)
+	}
+}
+
+// TestEmptyAndNilSlicesOfPlans checks the same for cards, decks and passes.
+func TestEmptyAndNilSlicesOfPlans(t *testing.T) {
+	none, digit, first, wide := []impl.Card(nil), impl.Pass{Column: 0, Mode: impl.ModeDigits}, impl.Field{From: 0, To: 1}, impl.Field{From: 0, To: 5}
+	list := []trial{
+		{"AlwaysSorts", impl.AlwaysSorts, []any{first, []impl.Pass(nil)}},
+		{"AlwaysSorts", impl.AlwaysSorts, []any{impl.Field{}, []impl.Pass(nil)}},
+		{"HandledCards", impl.HandledCards, []any{int64(3), []impl.Pass(nil)}},
+		{"HandledCards", impl.HandledCards, []any{int64(-1), []impl.Pass(nil)}},
+	}
+	for _, deck := range [][]impl.Card{none, {{}}, {card(9)}} {
+		list = append(list, trial{"IsIdlePass", impl.IsIdlePass, []any{deck, digit}}, trial{"IsIdlePass", impl.IsIdlePass, []any{deck, impl.Pass{}}})
+		for _, f := range []impl.Field{first, wide, {}} {
+			list = append(list, trial{"ShortPlan", impl.ShortPlan, []any{deck, f}}, trial{"FewestPasses", impl.FewestPasses, []any{deck, f}})
+			for _, l := range [][]impl.Pass{nil, {digit}, {{}}} {
+				list = append(list, trial{"IsPlanFor", impl.IsPlanFor, []any{deck, f, l}})
+			}
+		}
 	}
 	for _, x := range list {
 		checkEmptied(t, x)
