@@ -5,6 +5,7 @@ import (
 	"math"
 	"slices"
 	"strings"
+	"sync"
 	"testing"
 
 	"loop.example/g01012/impl"
@@ -25,8 +26,10 @@ func holesIn(rows ...int64) int64 {
 	return mask
 }
 
-// alphabet are all characters, in the order of their ranks.
-func alphabet() []letter {
+// alphabet are all characters, in the order of their ranks. They are listed only once, since the tests ask for them very often.
+var alphabet = sync.OnceValue(lettersByRank)
+
+func lettersByRank() []letter {
 	list := []letter{{' ', holesIn()}, {'&', holesIn(12)}}
 	for k := range 9 {
 		list = append(list, letter{"ABCDEFGHI"[k], holesIn(12, int64(k)+1)})

@@ -297,9 +297,40 @@ func trialsOfPlans() []trial {
 	return list
 }
 
+// trialsOfCollator are calls of all functions of chapter 9.
+func trialsOfCollator() []trial {
+	var list []trial
+	decks := slices.Concat(goodDecks(), wrongDecks(), [][]impl.Card{deckOf("A1", "A1", "B2", "B3"), deckOf("A2", "B0", "B0", "C1"), deckOf("B1", "A1"), deckOf("ABC", "ABD"), sortedPlainly(numbered(charMasks()...), impl.Field{From: 0, To: 1}), numbered(charMasks()[5:30]...)})
+	// Copying a card of a thousand columns again and again would take too long.
+	decks = slices.DeleteFunc(decks, func(deck []impl.Card) bool { return len(deck) > 0 && len(deck[0].Holes) > 30 })
+	cards := []impl.Card{{}, card(9), card(3), card(-1), cardOf("A1"), cardOf("B0"), cardOf("ABC"), card(9, 3, 0), wide(impl.MaxColumns, 9), wide(impl.MaxColumns+1, 9)}
+	texts := []string{"", "A", "a", "\xff", "B0", "  ", "Ab", "\u0141", "ABC", strings.Repeat("A", impl.MaxColumns), strings.Repeat("a", 1000)}
+	for _, deck := range decks {
+		for _, from := range edges() {
+			for _, to := range []int64{math.MinInt64, -1, 0, 1, 2, 3, 20, 21, math.MaxInt64} {
+				f := impl.Field{From: from, To: to}
+				list = append(list, trial{"SequenceErrors", impl.SequenceErrors, []any{deck, f}}, trial{"GroupsOf", impl.GroupsOf, []any{deck, f}}, trial{"FirstOfGroups", impl.FirstOfGroups, []any{deck, f}})
+			}
+		}
+		for _, f := range []impl.Field{{}, {From: 0, To: 1}, {From: 0, To: 2}, {From: 1, To: 2}, {From: 0, To: impl.MaxColumns}, {From: 0, To: 1000}, {From: math.MinInt64, To: math.MaxInt64}, {From: math.MaxInt64, To: math.MinInt64}} {
+			for _, other := range decks {
+				list = append(list, trial{"MergeDecks", impl.MergeDecks, []any{deck, other, f}}, trial{"MatchDecks", impl.MatchDecks, []any{deck, other, f}})
+			}
+			for _, c := range cards {
+				list = append(list, trial{"InsertCard", impl.InsertCard, []any{deck, c, f}})
+			}
+			for at, text := range texts {
+				list = append(list, trial{"SelectEqual", impl.SelectEqual, []any{deck, f, text}}, trial{"FindCards", impl.FindCards, []any{deck, f, text}})
+				list = append(list, trial{"SelectBetween", impl.SelectBetween, []any{deck, f, text, text}}, trial{"SelectBetween", impl.SelectBetween, []any{deck, f, text, texts[(at+1)%len(texts)]}})
+			}
+		}
+	}
+	return list
+}
+
 // TestPurityAndTotality checks P1 for all trials: each call returns, returns the same again, changes no argument, and returns memory of its own.
 func TestPurityAndTotality(t *testing.T) {
-	for _, trials := range []func() []trial{trialsOfBasics, trialsOfCards, trialsOfCodes, trialsOfLayouts, trialsOfKeypunch, trialsOfDamages, trialsOfSorter, trialsOfPlans} {
+	for _, trials := range []func() []trial{trialsOfBasics, trialsOfCards, trialsOfCodes, trialsOfLayouts, trialsOfKeypunch, trialsOfDamages, trialsOfSorter, trialsOfPlans, trialsOfCollator} {
 		t.Run("", func(t *testing.T) {
 			t.Parallel()
 			for _, x := range trials() {
@@ -491,6 +522,26 @@ func TestEmptyAndNilSlicesOfPlans(t *testing.T) {
 			list = append(list, trial{"ShortPlan", impl.ShortPlan, []any{deck, f}}, trial{"FewestPasses", impl.FewestPasses, []any{deck, f}})
 			for _, l := range [][]impl.Pass{nil, {digit}, {{}}} {
 				list = append(list, trial{"IsPlanFor", impl.IsPlanFor, []any{deck, f, l}})
+			}
+		}
+	}
+	for _, x := range list {
+		checkEmptied(t, x)
+	}
+}
+
+// TestEmptyAndNilSlicesOfCollator checks the same for cards and decks.
+func TestEmptyAndNilSlicesOfCollator(t *testing.T) {
+	var list []trial
+	decks := [][]impl.Card{nil, {{}}, {card(9)}, deckOf("A1", "B1")}
+	for _, f := range []impl.Field{{From: 0, To: 1}, {From: 1, To: 2}, {}} {
+		for _, deck := range decks {
+			for _, c := range []impl.Card{{}, card(9), card(9, 9)} {
+				list = append(list, trial{"InsertCard", impl.InsertCard, []any{deck, c, f}})
+			}
+			list = append(list, withDeck(deck, f)...)
+			for _, other := range decks {
+				list = append(list, trial{"MergeDecks", impl.MergeDecks, []any{deck, other, f}}, trial{"MatchDecks", impl.MatchDecks, []any{deck, other, f}})
 			}
 		}
 	}
