@@ -858,14 +858,14 @@ func checkAlways(t *testing.T, f impl.Field, list []impl.Pass, pairs []pair) boo
 	return always
 }
 
-// listsOf calls do for all lists of at most so many passes.
-func listsOf(passes []impl.Pass, most int, begun []impl.Pass, do func([]impl.Pass)) {
+// listsOf calls do for all lists of at most so many of some elements.
+func listsOf[T any](elements []T, most int, begun []T, do func([]T)) {
 	do(begun)
 	if len(begun) == most {
 		return
 	}
-	for _, p := range passes {
-		listsOf(passes, most, append(slices.Clone(begun), p), do)
+	for _, x := range elements {
+		listsOf(elements, most, append(slices.Clone(begun), x), do)
 	}
 }
 

@@ -328,9 +328,56 @@ func trialsOfCollator() []trial {
 	return list
 }
 
+// trialsOfReproducer are calls of all functions of chapter 10.
+func trialsOfReproducer() []trial {
+	var list []trial
+	decks := slices.Concat(goodDecks(), wrongDecks(), [][]impl.Card{deckOf("A-", " 1", "B-", " 2"), deckOf("A1", "B-"), {worn(19)}, copies(impl.MaxDeck, wide(13, 0)), {wide(3, 0), wide(3, 0)}})
+	// Copying a card of a thousand columns again and again would take too long.
+	decks = slices.DeleteFunc(decks, func(deck []impl.Card) bool { return len(deck) > 0 && len(deck[0].Holes) > 30 })
+	var lists [][]impl.Copy
+	for _, text := range []string{"", "0>0", "1>0 0>1", "0>0 0>1 0>2", "1>0 1>1", "19>19", "0>20", "20>0", "-1>0", "0>-1", "0>0 0>0", "2>1 1>0", "9223372036854775807>0", "0>-9223372036854775808"} {
+		lists = append(lists, wired(text))
+	}
+	lists = append(lists, nil, manyCopies()[0], manyCopies()[2])
+	for _, l := range lists {
+		list = append(list, trial{"BackCopies", impl.BackCopies, []any{l}}, trial{"CopiesText", impl.CopiesText, []any{l}})
+		for _, from := range edges() {
+			for _, to := range edges() {
+				list = append(list, trial{"ValidCopies", impl.ValidCopies, []any{l, from, to}})
+			}
+		}
+		for _, other := range lists {
+			list = append(list, trial{"JoinCopies", impl.JoinCopies, []any{l, other}})
+		}
+		for at, deck := range decks {
+			other := decks[(at+1)%len(decks)]
+			for _, b := range [][]impl.Card{nil, deck, other, {card(9)}, deckOf("A1", "B2", "C3"), copies(impl.MaxDeck, wide(impl.MaxColumns, 9))} {
+				list = append(list, trial{"CompareDecks", impl.CompareDecks, []any{deck, b, l}})
+			}
+			for _, n := range edges() {
+				list = append(list, trial{"ReproduceDeck", impl.ReproduceDeck, []any{deck, l, n}}, trial{"InterspersedGang", impl.InterspersedGang, []any{deck, n, l}})
+			}
+			for _, c := range append(slices.Clone(deck[:min(1, len(deck))]), impl.Card{}, card(9), card(-1), cardOf("A1"), wide(impl.MaxColumns, 9)) {
+				list = append(list, trial{"GangPunch", impl.GangPunch, []any{c, deck, l}}, trial{"ReproduceCard", impl.ReproduceCard, []any{c, l, int64(at)}}, trial{"CompareCards", impl.CompareCards, []any{c, cardOf("B1"), l}}, trial{"CompareCards", impl.CompareCards, []any{cardOf("B1"), c, l}})
+			}
+		}
+	}
+	for _, deck := range decks {
+		for _, f := range append(wrongFields(columnsOf(deck)), impl.Field{From: 0, To: 1}, impl.Field{From: 1, To: 3}, impl.Field{From: 0, To: 12}, impl.Field{From: 0, To: 13}) {
+			for _, n := range append(edges(), 99, 960, impl.MaxCardNumber-1, impl.MaxCardNumber, impl.MaxCardNumber+1) {
+				list = append(list, trial{"SerialPunch", impl.SerialPunch, []any{deck, f, n}})
+			}
+		}
+	}
+	for _, s := range append(wrongCopiesTexts(), "", "0>0", "3>0 2>1", "19>0 19>19") {
+		list = append(list, trial{"ReadCopies", impl.ReadCopies, []any{s}})
+	}
+	return list
+}
+
 // TestPurityAndTotality checks P1 for all trials: each call returns, returns the same again, changes no argument, and returns memory of its own.
 func TestPurityAndTotality(t *testing.T) {
-	for _, trials := range []func() []trial{trialsOfBasics, trialsOfCards, trialsOfCodes, trialsOfLayouts, trialsOfKeypunch, trialsOfDamages, trialsOfSorter, trialsOfPlans, trialsOfCollator} {
+	for _, trials := range []func() []trial{trialsOfBasics, trialsOfCards, trialsOfCodes, trialsOfLayouts, trialsOfKeypunch, trialsOfDamages, trialsOfSorter, trialsOfPlans, trialsOfCollator, trialsOfReproducer} {
 		t.Run("", func(t *testing.T) {
 			t.Parallel()
 			for _, x := range trials() {
@@ -550,6 +597,34 @@ func TestEmptyAndNilSlicesOfCollator(t *testing.T) {
 	}
 }
 
+// TestEmptyAndNilSlicesOfReproducer checks the same for cards, decks and copies.
+func TestEmptyAndNilSlicesOfReproducer(t *testing.T) {
+	var list []trial
+	decks := [][]impl.Card{nil, {{}}, {card(9)}, deckOf("A-", "B1")}
+	for _, l := range [][]impl.Copy{nil, wired("0>0"), wired("1>0 0>1"), wired("0>20")} {
+		list = append(list, trial{"ValidCopies", impl.ValidCopies, []any{l, int64(1), int64(1)}}, trial{"ValidCopies", impl.ValidCopies, []any{l, int64(0), int64(1)}})
+		list = append(list, trial{"BackCopies", impl.BackCopies, []any{l}}, trial{"CopiesText", impl.CopiesText, []any{l}}, trial{"JoinCopies", impl.JoinCopies, []any{l, []impl.Copy(nil)}}, trial{"JoinCopies", impl.JoinCopies, []any{[]impl.Copy(nil), l}})
+		for _, c := range []impl.Card{{}, card(9), card(9, 9)} {
+			list = append(list, trial{"ReproduceCard", impl.ReproduceCard, []any{c, l, int64(1)}}, trial{"CompareCards", impl.CompareCards, []any{c, card(9), l}}, trial{"CompareCards", impl.CompareCards, []any{card(9), c, l}})
+			for _, deck := range decks {
+				list = append(list, trial{"GangPunch", impl.GangPunch, []any{c, deck, l}})
+			}
+		}
+		for _, deck := range decks {
+			list = append(list, trial{"ReproduceDeck", impl.ReproduceDeck, []any{deck, l, int64(1)}}, trial{"InterspersedGang", impl.InterspersedGang, []any{deck, int64(1), l}})
+			for _, other := range decks {
+				list = append(list, trial{"CompareDecks", impl.CompareDecks, []any{deck, other, l}})
+			}
+		}
+	}
+	for _, deck := range decks {
+		list = append(list, trial{"SerialPunch", impl.SerialPunch, []any{deck, impl.Field{From: 0, To: 1}, int64(1)}})
+	}
+	for _, x := range list {
+		checkEmptied(t, x)
+	}
+}
+
 // checkEmptied checks that a call returns the same with empty slices instead of nil ones.
 func checkEmptied(t *testing.T, x trial) {
 	t.Helper()
@@ -580,6 +655,8 @@ func emptied(x any) any {
 		return lists
 	case []impl.Pass:
 		return append([]impl.Pass{}, v...)
+	case []impl.Copy:
+		return append([]impl.Copy{}, v...)
 	case []string:
 		return append([]string{}, v...)
 	}
