@@ -375,9 +375,37 @@ func trialsOfReproducer() []trial {
 	return list
 }
 
+// trialsOfCounters are calls of all functions of chapter 11.
+func trialsOfCounters() []trial {
+	var list []trial
+	numbers := append(edges(), 5, 8, 95, 99, 100, 123456789012, 999999999999, 1000000000000, -999999999999)
+	counters := slices.Concat(rightCounters(), wrongCounters())
+	for _, c := range counters {
+		list = append(list, trial{"ValidCounter", impl.ValidCounter, []any{c}}, trial{"NumberShown", impl.NumberShown, []any{c}}, trial{"ComplementOf", impl.ComplementOf, []any{c}}, trial{"CounterText", impl.CounterText, []any{c}})
+		for _, n := range numbers {
+			list = append(list, trial{"AddToCounter", impl.AddToCounter, []any{c, n}}, trial{"TakeFromCounter", impl.TakeFromCounter, []any{c, n}}, trial{"CarriesOf", impl.CarriesOf, []any{c, n}}, trial{"SplitCounter", impl.SplitCounter, []any{c, n}})
+		}
+		for _, other := range counters {
+			list = append(list, trial{"SameCounter", impl.SameCounter, []any{c, other}}, trial{"JoinCounters", impl.JoinCounters, []any{c, other}})
+		}
+	}
+	for _, wheels := range edges() {
+		for _, n := range numbers {
+			list = append(list, trial{"SetCounter", impl.SetCounter, []any{wheels, n}})
+			for _, numbers := range [][]int64{nil, {}, {n}, {n, -n}, {-5, n}, {9, 1, n}, slices.Repeat([]int64{n}, impl.MaxDeck), slices.Repeat([]int64{n}, impl.MaxDeck+1)} {
+				list = append(list, trial{"BalanceAfter", impl.BalanceAfter, []any{wheels, numbers}})
+			}
+		}
+	}
+	for _, s := range append(wrongCounterTexts(), "0", "097", "000000000000", "999999999999") {
+		list = append(list, trial{"ReadCounter", impl.ReadCounter, []any{s}})
+	}
+	return list
+}
+
 // TestPurityAndTotality checks P1 for all trials: each call returns, returns the same again, changes no argument, and returns memory of its own.
 func TestPurityAndTotality(t *testing.T) {
-	for _, trials := range []func() []trial{trialsOfBasics, trialsOfCards, trialsOfCodes, trialsOfLayouts, trialsOfKeypunch, trialsOfDamages, trialsOfSorter, trialsOfPlans, trialsOfCollator, trialsOfReproducer} {
+	for _, trials := range []func() []trial{trialsOfBasics, trialsOfCards, trialsOfCodes, trialsOfLayouts, trialsOfKeypunch, trialsOfDamages, trialsOfSorter, trialsOfPlans, trialsOfCollator, trialsOfReproducer, trialsOfCounters} {
 		t.Run("", func(t *testing.T) {
 			t.Parallel()
 			for _, x := range trials() {
@@ -625,6 +653,23 @@ func TestEmptyAndNilSlicesOfReproducer(t *testing.T) {
 	}
 }
 
+// TestEmptyAndNilSlicesOfCounters checks the same for counters and numbers.
+func TestEmptyAndNilSlicesOfCounters(t *testing.T) {
+	list := []trial{{"ValidCounter", impl.ValidCounter, []any{impl.Counter{}}}, {"NumberShown", impl.NumberShown, []any{impl.Counter{}}}, {"ComplementOf", impl.ComplementOf, []any{impl.Counter{}}}, {"CounterText", impl.CounterText, []any{impl.Counter{}}}}
+	for _, n := range []int64{-1, 0, 1, 2, 3, 12, 13} {
+		list = append(list, trial{"AddToCounter", impl.AddToCounter, []any{impl.Counter{}, n}}, trial{"TakeFromCounter", impl.TakeFromCounter, []any{impl.Counter{}, n}}, trial{"CarriesOf", impl.CarriesOf, []any{impl.Counter{}, n}}, trial{"SplitCounter", impl.SplitCounter, []any{impl.Counter{}, n}}, trial{"BalanceAfter", impl.BalanceAfter, []any{n, []int64(nil)}})
+	}
+	for _, c := range []impl.Counter{{}, counter(1), counter(10), showing("097")} {
+		for _, other := range []impl.Counter{{}, counter(1)} {
+			list = append(list, trial{"SameCounter", impl.SameCounter, []any{c, other}}, trial{"SameCounter", impl.SameCounter, []any{other, c}}, trial{"JoinCounters", impl.JoinCounters, []any{c, other}}, trial{"JoinCounters", impl.JoinCounters, []any{other, c}})
+		}
+	}
+	for _, x := range list {
+		checkEmptied(t, x)
+	}
+	same(t, "no digits and none", "true true", impl.SameCounter(impl.Counter{}, impl.Counter{Digits: []int64{}}), impl.SameCounter(impl.Counter{Digits: []int64{}}, impl.Counter{}))
+}
+
 // checkEmptied checks that a call returns the same with empty slices instead of nil ones.
 func checkEmptied(t *testing.T, x trial) {
 	t.Helper()
@@ -657,6 +702,10 @@ func emptied(x any) any {
 		return append([]impl.Pass{}, v...)
 	case []impl.Copy:
 		return append([]impl.Copy{}, v...)
+	case impl.Counter:
+		return impl.Counter{Digits: append([]int64{}, v.Digits...)}
+	case []int64:
+		return append([]int64{}, v...)
 	case []string:
 		return append([]string{}, v...)
 	}
