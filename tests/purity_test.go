@@ -3,6 +3,7 @@ package tests
 import (
 	"fmt"
 	"math"
+	"math/rand/v2"
 	"reflect"
 	"slices"
 	"strings"
@@ -403,9 +404,37 @@ func trialsOfCounters() []trial {
 	return list
 }
 
+// trialsOfBoards are calls of all functions of chapter 12.
+func trialsOfBoards() []trial {
+	var list []trial
+	boards := slices.Concat(rightBoards(), wrongBoards())
+	for at, b := range boards {
+		list = append(list, trial{"ValidBoard", impl.ValidBoard, []any{b}}, trial{"NetsOf", impl.NetsOf, []any{b}}, trial{"SneakPairs", impl.SneakPairs, []any{b}}, trial{"OpenEntries", impl.OpenEntries, []any{b}}, trial{"SpareWires", impl.SpareWires, []any{b}}, trial{"FewestCuts", impl.FewestCuts, []any{b}})
+		for _, n := range append(edges(), 29, 30, 39, 40) {
+			list = append(list, trial{"RemoveWire", impl.RemoveWire, []any{b, n}}, trial{"JoinedHubs", impl.JoinedHubs, []any{b, n}}, trial{"SourcesOf", impl.SourcesOf, []any{b, n}})
+		}
+		for _, w := range append(wrongWires(3), wrongWires(30)...) {
+			list = append(list, trial{"AddWire", impl.AddWire, []any{b, w}})
+		}
+		list = append(list, trial{"AddWire", impl.AddWire, []any{b, impl.Wire{A: 0, B: 1}}})
+		for _, c := range []impl.Card{{}, card(9), card(-1), card(9, 4), card(1, 2, 4), card(1, 2, 4096), wide(10, 9), worn(11), worn(impl.MaxColumns), wide(impl.MaxColumns+1, 9)} {
+			list = append(list, trial{"RouteCard", impl.RouteCard, []any{b, c}})
+		}
+		for _, other := range boards[:min(at+2, len(boards))] {
+			list = append(list, trial{"SameBoard", impl.SameBoard, []any{b, other}})
+		}
+	}
+	random := rand.New(rand.NewPCG(12, 2))
+	for range 300 {
+		b := anyBoard(random)
+		list = append(list, trial{"NetsOf", impl.NetsOf, []any{b}}, trial{"SneakPairs", impl.SneakPairs, []any{b}}, trial{"OpenEntries", impl.OpenEntries, []any{b}}, trial{"SpareWires", impl.SpareWires, []any{b}}, trial{"FewestCuts", impl.FewestCuts, []any{b}}, trial{"JoinedHubs", impl.JoinedHubs, []any{b, int64(0)}}, trial{"SourcesOf", impl.SourcesOf, []any{b, int64(0)}}, trial{"RemoveWire", impl.RemoveWire, []any{b, int64(0)}}, trial{"AddWire", impl.AddWire, []any{b, impl.Wire{A: 0, B: 1}}})
+	}
+	return list
+}
+
 // TestPurityAndTotality checks P1 for all trials: each call returns, returns the same again, changes no argument, and returns memory of its own.
 func TestPurityAndTotality(t *testing.T) {
-	for _, trials := range []func() []trial{trialsOfBasics, trialsOfCards, trialsOfCodes, trialsOfLayouts, trialsOfKeypunch, trialsOfDamages, trialsOfSorter, trialsOfPlans, trialsOfCollator, trialsOfReproducer, trialsOfCounters} {
+	for _, trials := range []func() []trial{trialsOfBasics, trialsOfCards, trialsOfCodes, trialsOfLayouts, trialsOfKeypunch, trialsOfDamages, trialsOfSorter, trialsOfPlans, trialsOfCollator, trialsOfReproducer, trialsOfCounters, trialsOfBoards} {
 		t.Run("", func(t *testing.T) {
 			t.Parallel()
 			for _, x := range trials() {
@@ -670,6 +699,27 @@ func TestEmptyAndNilSlicesOfCounters(t *testing.T) {
 	same(t, "no digits and none", "true true", impl.SameCounter(impl.Counter{}, impl.Counter{Digits: []int64{}}), impl.SameCounter(impl.Counter{Digits: []int64{}}, impl.Counter{}))
 }
 
+// TestEmptyAndNilSlicesOfBoards checks the same for wires and cards.
+func TestEmptyAndNilSlicesOfBoards(t *testing.T) {
+	var list []trial
+	boards := []impl.Board{{}, {Exits: 1}, plugged(1, 1, 0, ""), plugged(2, 3, 1, ""), plugged(0, 1, 1, ""), plugged(2, 1, 0, "0-2 1-2"), plugged(20, 10, 0, ""), plugged(20, 10, 1, "")}
+	for _, b := range boards {
+		list = append(list, trial{"ValidBoard", impl.ValidBoard, []any{b}}, trial{"NetsOf", impl.NetsOf, []any{b}}, trial{"SneakPairs", impl.SneakPairs, []any{b}}, trial{"OpenEntries", impl.OpenEntries, []any{b}}, trial{"SpareWires", impl.SpareWires, []any{b}}, trial{"FewestCuts", impl.FewestCuts, []any{b}})
+		for _, n := range []int64{-1, 0, 1, 2, 20} {
+			list = append(list, trial{"RemoveWire", impl.RemoveWire, []any{b, n}}, trial{"JoinedHubs", impl.JoinedHubs, []any{b, n}}, trial{"SourcesOf", impl.SourcesOf, []any{b, n}}, trial{"AddWire", impl.AddWire, []any{b, impl.Wire{A: 0, B: n}}})
+		}
+		for _, c := range []impl.Card{{}, card(9), card(9, 4)} {
+			list = append(list, trial{"RouteCard", impl.RouteCard, []any{b, c}})
+		}
+		for _, other := range boards {
+			list = append(list, trial{"SameBoard", impl.SameBoard, []any{b, other}})
+		}
+	}
+	for _, x := range list {
+		checkEmptied(t, x)
+	}
+}
+
 // checkEmptied checks that a call returns the same with empty slices instead of nil ones.
 func checkEmptied(t *testing.T, x trial) {
 	t.Helper()
@@ -704,6 +754,9 @@ func emptied(x any) any {
 		return append([]impl.Copy{}, v...)
 	case impl.Counter:
 		return impl.Counter{Digits: append([]int64{}, v.Digits...)}
+	case impl.Board:
+		v.Wires = append([]impl.Wire{}, v.Wires...)
+		return v
 	case []int64:
 		return append([]int64{}, v...)
 	case []string:
