@@ -432,9 +432,42 @@ func trialsOfBoards() []trial {
 	return list
 }
 
+// trialsOfTabulator are calls of all functions of chapter 13.
+func trialsOfTabulator() []trial {
+	var list []trial
+	decks := slices.Concat(goodDecks(), wrongDecks(), [][]impl.Card{listed("A1,A2,B1"), listed("11,1 , 1,11"), listed("1J,2K,3-"), listed("A0102,A0303,B0501"), numbered(charMasks()...), copies(40, cardOf("SAMETEXT99999999999R"))})
+	for _, from := range edges() {
+		for _, to := range edges() {
+			f, one := impl.Field{From: from, To: to}, columnsFrom(0, 1)
+			for _, width := range []int64{math.MinInt64, -1, 0, 1, 12, 13, 20, 21, math.MaxInt64} {
+				list = append(list, trial{"ValidSetup", impl.ValidSetup, []any{setup(f, one), width}}, trial{"ValidSetup", impl.ValidSetup, []any{setup(one, f, one), width}}, trial{"ValidSetup", impl.ValidSetup, []any{setup(f), width}})
+			}
+			for _, deck := range [][]impl.Card{nil, listed("A1,A2,B1"), copies(2, wide(impl.MaxColumns, 9))} {
+				list = append(list, tabulations(setup(f, one), deck)...)
+				list = append(list, tabulations(detailed(setup(one, f)), deck)...)
+			}
+		}
+	}
+	for _, deck := range decks {
+		for _, group := range []impl.Field{{}, columnsFrom(0, 1), columnsFrom(0, 2), columnsFrom(0, 8), columnsFrom(0, 20)} {
+			for _, f := range []impl.Field{{}, columnsFrom(0, 1), columnsFrom(1, 1), columnsFrom(1, 2), columnsFrom(8, 12), columnsFrom(0, 20)} {
+				for count := range 6 {
+					s := setup(group, slices.Repeat([]impl.Field{f}, count)...)
+					list = append(list, tabulations(s, deck)...)
+					list = append(list, tabulations(detailed(s), deck)...)
+				}
+			}
+		}
+	}
+	for _, sums := range [][]int64{nil, {}, {0}, {3, -4}, {math.MinInt64, math.MaxInt64, -1}, edges()} {
+		list = append(list, trial{"SumLine", impl.SumLine, []any{sums}})
+	}
+	return list
+}
+
 // TestPurityAndTotality checks P1 for all trials: each call returns, returns the same again, changes no argument, and returns memory of its own.
 func TestPurityAndTotality(t *testing.T) {
-	for _, trials := range []func() []trial{trialsOfBasics, trialsOfCards, trialsOfCodes, trialsOfLayouts, trialsOfKeypunch, trialsOfDamages, trialsOfSorter, trialsOfPlans, trialsOfCollator, trialsOfReproducer, trialsOfCounters, trialsOfBoards} {
+	for _, trials := range []func() []trial{trialsOfBasics, trialsOfCards, trialsOfCodes, trialsOfLayouts, trialsOfKeypunch, trialsOfDamages, trialsOfSorter, trialsOfPlans, trialsOfCollator, trialsOfReproducer, trialsOfCounters, trialsOfBoards, trialsOfTabulator} {
 		t.Run("", func(t *testing.T) {
 			t.Parallel()
 			for _, x := range trials() {
@@ -720,6 +753,22 @@ func TestEmptyAndNilSlicesOfBoards(t *testing.T) {
 	}
 }
 
+// TestEmptyAndNilSlicesOfTabulator checks the same for sums, cards and decks.
+func TestEmptyAndNilSlicesOfTabulator(t *testing.T) {
+	list := []trial{{"SumLine", impl.SumLine, []any{[]int64(nil)}}}
+	for _, s := range []impl.Setup{{}, setup(columnsFrom(0, 1)), detailed(setup(columnsFrom(0, 1))), setup(columnsFrom(0, 1), columnsFrom(1, 1)), setup(columnsFrom(19, 1)), setup(columnsFrom(20, 1))} {
+		for _, width := range []int64{0, 1, 20} {
+			list = append(list, trial{"ValidSetup", impl.ValidSetup, []any{s, width}})
+		}
+		for _, deck := range [][]impl.Card{nil, {{}}, {card(9)}, listed("A1,B1"), listed("A,B")} {
+			list = append(list, tabulations(s, deck)...)
+		}
+	}
+	for _, x := range list {
+		checkEmptied(t, x)
+	}
+}
+
 // checkEmptied checks that a call returns the same with empty slices instead of nil ones.
 func checkEmptied(t *testing.T, x trial) {
 	t.Helper()
@@ -756,6 +805,9 @@ func emptied(x any) any {
 		return impl.Counter{Digits: append([]int64{}, v.Digits...)}
 	case impl.Board:
 		v.Wires = append([]impl.Wire{}, v.Wires...)
+		return v
+	case impl.Setup:
+		v.Sums = append([]impl.Field{}, v.Sums...)
 		return v
 	case []int64:
 		return append([]int64{}, v...)
